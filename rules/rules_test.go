@@ -1,0 +1,69 @@
+// Package rules has tests of what holds in all layers.
+package rules
+
+import (
+	"errors"
+	"strconv"
+	"testing"
+
+	"tollbar/api"
+	"tollbar/pack"
+)
+
+// TestLimits: the limits that the document names.
+func TestLimits(t *testing.T) {
+	limits := []struct {
+		name      string
+		got, want int
+	}{
+		{"MaxBytes", api.MaxBytes, 1048576},
+		{"MaxList", api.MaxList, 4096},
+		{"MaxLabel", api.MaxLabel, 32},
+		{"MaxAmount", api.MaxAmount, 1099511627776},
+		{"MaxIndex", api.MaxIndex, 1099511627776},
+		{"MaxNodes", api.MaxNodes, 256},
+		{"MaxUses", api.MaxUses, 1024},
+		{"MaxClients", api.MaxClients, 64},
+		{"MaxMembers", api.MaxMembers, 7},
+	}
+	for _, l := range limits {
+		if l.got != l.want {
+			t.Errorf("%s: %d, not %d", l.name, l.got, l.want)
+		}
+	}
+}
+
+// TestErrors: the numbers that the document names, and how an error is told.
+func TestErrors(t *testing.T) {
+	numbers := map[api.Errno]int{
+		api.ErrArg: 1, api.ErrLong: 2, api.ErrForm: 3, api.ErrRange: 4, api.ErrOver: 5, api.ErrName: 6,
+		api.ErrNone: 8, api.ErrTwice: 9, api.ErrFull: 10, api.ErrSum: 11, api.ErrEnd: 12, api.ErrDown: 13,
+		api.ErrHalt: 14, api.ErrQuota: 20, api.ErrUsed: 21, api.ErrOld: 22, api.ErrGap: 23, api.ErrGone: 24,
+		api.ErrLead: 30, api.ErrWait: 31, api.ErrBusy: 32, api.ErrParty: 33, api.ErrScript: 291,
+	}
+	for e, n := range numbers {
+		if int(e) != n || e.Error() != "error "+strconv.Itoa(n) {
+			t.Errorf("%d: %q, not %d", int(e), e.Error(), n)
+		}
+	}
+}
+
+// TestErrorsAs: errors.As finds the number in what a call answers, and a call without a fault answers nil.
+func TestErrorsAs(t *testing.T) {
+	var n api.Errno
+	r := pack.Read([]byte("y"))
+	if err := r.Done(); !errors.As(err, &n) || n != api.ErrForm {
+		t.Errorf("Done: %v", err)
+	}
+	r.Bool()
+	if err := r.Done(); err != nil {
+		t.Errorf("Done: %v", err)
+	}
+	r.Text(-1)
+	if err := r.Done(); !errors.As(err, &n) || n != api.ErrArg {
+		t.Errorf("Done: %v", err)
+	}
+	if err := (*pack.Reader)(nil).Done(); !errors.As(err, &n) || n != api.ErrArg {
+		t.Errorf("Done of a nil reader: %v", err)
+	}
+}
