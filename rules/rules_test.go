@@ -8,6 +8,7 @@ import (
 
 	"tollbar/api"
 	"tollbar/pack"
+	"tollbar/seal"
 )
 
 // TestLimits: the limits that the document names.
@@ -65,5 +66,26 @@ func TestErrorsAs(t *testing.T) {
 	}
 	if err := (*pack.Reader)(nil).Done(); !errors.As(err, &n) || n != api.ErrArg {
 		t.Errorf("Done of a nil reader: %v", err)
+	}
+}
+
+// TestErrorsAsSeal: the same of what is sealed.
+func TestErrorsAsSeal(t *testing.T) {
+	var n api.Errno
+	if _, err := seal.Seal(0, nil); !errors.As(err, &n) || n != api.ErrArg {
+		t.Errorf("Seal: %v", err)
+	}
+	if _, _, err := seal.Open(nil); !errors.As(err, &n) || n != api.ErrEnd {
+		t.Errorf("Open of nothing: %v", err)
+	}
+	if _, _, err := seal.Open(make([]byte, 5)); !errors.As(err, &n) || n != api.ErrSum {
+		t.Errorf("Open of noughts: %v", err)
+	}
+	b, err := seal.Seal(1, []byte("ab"))
+	if err != nil {
+		t.Errorf("Seal: %v", err)
+	}
+	if _, _, err := seal.Open(b); err != nil {
+		t.Errorf("Open: %v", err)
 	}
 }
