@@ -7,6 +7,7 @@ import (
 	"testing"
 
 	"tollbar/api"
+	"tollbar/disk"
 	"tollbar/pack"
 	"tollbar/seal"
 )
@@ -87,5 +88,39 @@ func TestErrorsAsSeal(t *testing.T) {
 	}
 	if _, _, err := seal.Open(b); err != nil {
 		t.Errorf("Open: %v", err)
+	}
+}
+
+// TestErrorsAsDisk: the same of a disk.
+func TestErrorsAsDisk(t *testing.T) {
+	var n api.Errno
+	if _, err := disk.New(0); !errors.As(err, &n) || n != api.ErrArg {
+		t.Errorf("New: %v", err)
+	}
+	d, err := disk.New(2)
+	if err != nil {
+		t.Fatalf("New: %v", err)
+	}
+	if err := d.Write(1, []byte("ab")); !errors.As(err, &n) || n != api.ErrArg {
+		t.Errorf("Write: %v", err)
+	}
+	if err := d.Write(0, []byte("ab")); err != nil {
+		t.Errorf("Write: %v", err)
+	}
+	if err := d.Arm(0); err != nil {
+		t.Errorf("Arm: %v", err)
+	}
+	if err := d.Sync(); !errors.As(err, &n) || n != api.ErrDown {
+		t.Errorf("Sync, the power going: %v", err)
+	}
+	if _, err := d.Read(0, 2); !errors.As(err, &n) || n != api.ErrDown {
+		t.Errorf("Read, the power gone: %v", err)
+	}
+	d.Start(nil)
+	if err := d.Sync(); err != nil {
+		t.Errorf("Sync: %v", err)
+	}
+	if _, err := d.Read(0, 2); err != nil {
+		t.Errorf("Read: %v", err)
 	}
 }
