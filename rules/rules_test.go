@@ -10,6 +10,7 @@ import (
 	"tollbar/disk"
 	"tollbar/pack"
 	"tollbar/seal"
+	"tollbar/tape"
 )
 
 // TestLimits: the limits that the document names.
@@ -122,5 +123,48 @@ func TestErrorsAsDisk(t *testing.T) {
 	}
 	if _, err := d.Read(0, 2); err != nil {
 		t.Errorf("Read: %v", err)
+	}
+}
+
+// TestErrorsAsTape: the same of a tape.
+func TestErrorsAsTape(t *testing.T) {
+	var n api.Errno
+	if _, _, err := tape.Open(nil, tape.Area{Len: 10}); !errors.As(err, &n) || n != api.ErrArg {
+		t.Errorf("Open of no disk: %v", err)
+	}
+	d, err := disk.New(10)
+	if err != nil {
+		t.Fatalf("New: %v", err)
+	}
+	x, _, err := tape.Open(d, tape.Area{Len: 10})
+	if err != nil {
+		t.Fatalf("Open: %v", err)
+	}
+	if err := x.Append(make([]byte, api.MaxBytes+1)); !errors.As(err, &n) || n != api.ErrLong {
+		t.Errorf("Append of too much: %v", err)
+	}
+	if err := x.Append(make([]byte, 6)); !errors.As(err, &n) || n != api.ErrFull {
+		t.Errorf("Append of more than the room: %v", err)
+	}
+	if err := x.Append([]byte("ab")); err != nil {
+		t.Errorf("Append: %v", err)
+	}
+	if err := x.Reset(); err != nil {
+		t.Errorf("Reset: %v", err)
+	}
+	if err := d.Write(0, []byte{2}); err != nil {
+		t.Errorf("Write: %v", err)
+	}
+	if _, _, err := tape.Open(d, tape.Area{Len: 10}); !errors.As(err, &n) || n != api.ErrHalt {
+		t.Errorf("Open, the mark being 2: %v", err)
+	}
+	if err := d.Arm(0); err != nil {
+		t.Errorf("Arm: %v", err)
+	}
+	if err := x.Reset(); !errors.As(err, &n) || n != api.ErrDown {
+		t.Errorf("Reset, the power going: %v", err)
+	}
+	if err := x.Append(nil); !errors.As(err, &n) || n != api.ErrDown {
+		t.Errorf("Append to a dead tape: %v", err)
 	}
 }
