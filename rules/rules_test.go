@@ -9,6 +9,7 @@ import (
 	"tollbar/api"
 	"tollbar/disk"
 	"tollbar/pack"
+	"tollbar/pair"
 	"tollbar/seal"
 	"tollbar/tape"
 )
@@ -166,5 +167,40 @@ func TestErrorsAsTape(t *testing.T) {
 	}
 	if err := x.Append(nil); !errors.As(err, &n) || n != api.ErrDown {
 		t.Errorf("Append to a dead tape: %v", err)
+	}
+}
+
+// TestErrorsAsPair: the same of amounts.
+func TestErrorsAsPair(t *testing.T) {
+	var n api.Errno
+	if _, err := pair.Of(-1, 0); !errors.As(err, &n) || n != api.ErrArg {
+		t.Errorf("Of: %v", err)
+	}
+	if _, _, err := pair.Parts(0.5); !errors.As(err, &n) || n != api.ErrArg {
+		t.Errorf("Parts: %v", err)
+	}
+	if _, err := pair.Add(api.MaxAmount, 1); !errors.As(err, &n) || n != api.ErrOver {
+		t.Errorf("Add: %v", err)
+	}
+	if _, err := pair.Sub(1, 2); !errors.As(err, &n) || n != api.ErrRange {
+		t.Errorf("Sub: %v", err)
+	}
+	if _, err := pair.Sum([]complex128{1i, api.MaxAmount * 1i}); !errors.As(err, &n) || n != api.ErrOver {
+		t.Errorf("Sum: %v", err)
+	}
+	if _, err := pair.Most(1, -1); !errors.As(err, &n) || n != api.ErrArg {
+		t.Errorf("Most: %v", err)
+	}
+	if _, err := pair.Least(-1, 1); !errors.As(err, &n) || n != api.ErrArg {
+		t.Errorf("Least: %v", err)
+	}
+	if _, err := pair.Decode([]byte("n1;")); !errors.As(err, &n) || n != api.ErrForm {
+		t.Errorf("Decode: %v", err)
+	}
+	if _, err := pair.Read("1/"); !errors.As(err, &n) || n != api.ErrForm {
+		t.Errorf("Read: %v", err)
+	}
+	if _, err := pair.Read("1/2"); err != nil {
+		t.Errorf("Read: %v", err)
 	}
 }
