@@ -10,6 +10,7 @@ import (
 	"tollbar/disk"
 	"tollbar/pack"
 	"tollbar/pair"
+	"tollbar/quota"
 	"tollbar/seal"
 	"tollbar/tape"
 )
@@ -202,5 +203,51 @@ func TestErrorsAsPair(t *testing.T) {
 	}
 	if _, err := pair.Read("1/2"); err != nil {
 		t.Errorf("Read: %v", err)
+	}
+}
+
+// TestErrorsAsQuota: the same of a tree.
+func TestErrorsAsQuota(t *testing.T) {
+	var n api.Errno
+	q := quota.New()
+	r := quota.Node{Name: "r", Own: 2}
+	if err := q.AddNode(r); err != nil {
+		t.Errorf("AddNode: %v", err)
+	}
+	if err := q.AddNode(r); !errors.As(err, &n) || n != api.ErrTwice {
+		t.Errorf("AddNode again: %v", err)
+	}
+	if err := q.AddNode(quota.Node{}); !errors.As(err, &n) || n != api.ErrName {
+		t.Errorf("AddNode of no name: %v", err)
+	}
+	if err := q.Admit(quota.Use{ID: "x", Node: "r", Amount: 3}); !errors.As(err, &n) || n != api.ErrQuota {
+		t.Errorf("Admit of too much: %v", err)
+	}
+	if err := q.Admit(quota.Use{ID: "x", Node: "r", Amount: 2}); err != nil {
+		t.Errorf("Admit: %v", err)
+	}
+	if err := q.Set(quota.Node{Name: "r", Own: 1}); !errors.As(err, &n) || n != api.ErrUsed {
+		t.Errorf("Set: %v", err)
+	}
+	if err := q.RemoveNode("r"); !errors.As(err, &n) || n != api.ErrUsed {
+		t.Errorf("RemoveNode: %v", err)
+	}
+	if err := q.Release("y"); !errors.As(err, &n) || n != api.ErrNone {
+		t.Errorf("Release of nothing: %v", err)
+	}
+	if err := q.Release("x"); err != nil {
+		t.Errorf("Release: %v", err)
+	}
+	if _, err := q.Room("s"); !errors.As(err, &n) || n != api.ErrNone {
+		t.Errorf("Room: %v", err)
+	}
+	if _, err := (*quota.Tree)(nil).Used("r"); !errors.As(err, &n) || n != api.ErrArg {
+		t.Errorf("Used of no tree: %v", err)
+	}
+	if _, err := quota.Decode(nil); !errors.As(err, &n) || n != api.ErrForm {
+		t.Errorf("Decode of nothing: %v", err)
+	}
+	if _, err := quota.Decode(q.Encode()); err != nil {
+		t.Errorf("Decode: %v", err)
 	}
 }
