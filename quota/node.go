@@ -77,6 +77,10 @@ func (t *Tree) using(n node, more complex128) []node {
 
 // keep makes nodes so.
 func (t *Tree) keep(way []node) {
+	// The maps are made with the first node, so that a tree which New did not make is one without nodes, too.
+	if t.nodes == nil {
+		t.nodes, t.uses = map[string]node{}, map[string]Use{}
+	}
 	for _, n := range way {
 		t.nodes[n.Name] = n
 	}

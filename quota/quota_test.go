@@ -201,3 +201,19 @@ func TestNew(t *testing.T) {
 		t.Error("Two new trees share a node")
 	}
 }
+
+// TestZero: a tree that New did not make is one without nodes, too.
+func TestZero(t *testing.T) {
+	for _, q := range []*quota.Tree{{}, new(quota.Tree).Clone()} {
+		refuses(t, q, "RemoveNode", api.ErrNone, func() error { return q.RemoveNode("r") })
+		refuses(t, q, "Set", api.ErrNone, func() error { return q.Set(node("r", "", 0, 0, 0)) })
+		refuses(t, q, "Admit", api.ErrNone, func() error { return q.Admit(use("x", "r", 0)) })
+		refuses(t, q, "Release", api.ErrNone, func() error { return q.Release("x") })
+		if got := string(q.Encode()); got != "n0;n0;" {
+			t.Errorf("Encode: %s", got)
+		}
+		answers(t, "AddNode", q.AddNode(node("r", "", 2, 0, 0)), none)
+		admit(t, q, use("x", "r", 1))
+		totals(t, q, "r", 2, 1)
+	}
+}

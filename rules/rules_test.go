@@ -8,6 +8,7 @@ import (
 
 	"tollbar/api"
 	"tollbar/disk"
+	"tollbar/order"
 	"tollbar/pack"
 	"tollbar/pair"
 	"tollbar/quota"
@@ -249,5 +250,25 @@ func TestErrorsAsQuota(t *testing.T) {
 	}
 	if _, err := quota.Decode(q.Encode()); err != nil {
 		t.Errorf("Decode: %v", err)
+	}
+}
+
+// TestErrorsAsOrder: the same of what is asked for; an answer has the number itself.
+func TestErrorsAsOrder(t *testing.T) {
+	var n api.Errno
+	if _, err := order.Decode([]byte("i1;")); !errors.As(err, &n) || n != api.ErrForm {
+		t.Errorf("Decode: %v", err)
+	}
+	if _, err := order.DecodeAnswer(nil); !errors.As(err, &n) || n != api.ErrForm {
+		t.Errorf("DecodeAnswer: %v", err)
+	}
+	if _, err := order.Decode(order.Encode(order.Order{})); err != nil {
+		t.Errorf("Decode: %v", err)
+	}
+	if _, err := order.DecodeAnswer(order.EncodeAnswer(order.Answer{})); err != nil {
+		t.Errorf("DecodeAnswer: %v", err)
+	}
+	if a := order.Do(quota.New(), order.Order{Kind: order.Query}); api.Errno(a.Err) != api.ErrNone {
+		t.Errorf("Do: %v", a)
 	}
 }
