@@ -13,6 +13,7 @@ import (
 	"tollbar/pair"
 	"tollbar/quota"
 	"tollbar/seal"
+	"tollbar/session"
 	"tollbar/tape"
 )
 
@@ -270,5 +271,44 @@ func TestErrorsAsOrder(t *testing.T) {
 	}
 	if a := order.Do(quota.New(), order.Order{Kind: order.Query}); api.Errno(a.Err) != api.ErrNone {
 		t.Errorf("Do: %v", a)
+	}
+}
+
+// TestErrorsAsSession: the same of a table; a reply has the number itself.
+func TestErrorsAsSession(t *testing.T) {
+	var n api.Errno
+	s := session.New()
+	if _, _, err := s.Last(1); !errors.As(err, &n) || n != api.ErrGone {
+		t.Errorf("Last of no session: %v", err)
+	}
+	if _, _, err := (*session.Table)(nil).Last(1); !errors.As(err, &n) || n != api.ErrArg {
+		t.Errorf("Last of no table: %v", err)
+	}
+	if r := s.Apply(1, session.Command{Kind: session.Close, Session: 1}); api.Errno(r.Err) != api.ErrGone {
+		t.Errorf("Close: %v", r)
+	}
+	if r := s.Apply(1, session.Command{Kind: session.Open}); r.Err != 0 {
+		t.Errorf("Open: %v", r)
+	}
+	if _, _, err := s.Last(1); err != nil {
+		t.Errorf("Last: %v", err)
+	}
+	if _, err := session.Decode(nil); !errors.As(err, &n) || n != api.ErrForm {
+		t.Errorf("Decode of nothing: %v", err)
+	}
+	if _, err := session.Decode(s.Encode()); err != nil {
+		t.Errorf("Decode: %v", err)
+	}
+	if _, err := session.DecodeCommand(nil); !errors.As(err, &n) || n != api.ErrForm {
+		t.Errorf("DecodeCommand of nothing: %v", err)
+	}
+	if _, err := session.DecodeCommand(session.EncodeCommand(session.Command{})); err != nil {
+		t.Errorf("DecodeCommand: %v", err)
+	}
+	if _, err := session.DecodeReply(nil); !errors.As(err, &n) || n != api.ErrForm {
+		t.Errorf("DecodeReply of nothing: %v", err)
+	}
+	if _, err := session.DecodeReply(session.EncodeReply(session.Reply{})); err != nil {
+		t.Errorf("DecodeReply: %v", err)
 	}
 }
