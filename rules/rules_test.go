@@ -8,6 +8,7 @@ import (
 
 	"tollbar/api"
 	"tollbar/disk"
+	"tollbar/entry"
 	"tollbar/order"
 	"tollbar/pack"
 	"tollbar/pair"
@@ -310,5 +311,43 @@ func TestErrorsAsSession(t *testing.T) {
 	}
 	if _, err := session.DecodeReply(session.EncodeReply(session.Reply{})); err != nil {
 		t.Errorf("DecodeReply: %v", err)
+	}
+}
+
+// TestErrorsAsEntry: the same of a log.
+func TestErrorsAsEntry(t *testing.T) {
+	var n api.Errno
+	if err := entry.Check(entry.Log{Base: 1}); !errors.As(err, &n) || n != api.ErrArg {
+		t.Errorf("Check: %v", err)
+	}
+	if err := entry.Check(entry.Log{}); err != nil {
+		t.Errorf("Check: %v", err)
+	}
+	if _, err := entry.Term(entry.Log{}, 1); !errors.As(err, &n) || n != api.ErrNone {
+		t.Errorf("Term: %v", err)
+	}
+	if _, err := entry.Term(entry.Log{Base: 2, Term: 1}, 1); !errors.As(err, &n) || n != api.ErrOld {
+		t.Errorf("Term: %v", err)
+	}
+	if _, err := entry.At(entry.Log{Base: 2, Term: 1}, 2); !errors.As(err, &n) || n != api.ErrOld {
+		t.Errorf("At: %v", err)
+	}
+	if _, err := entry.Add(entry.Log{}, 1, entry.Order, make([]byte, 4097)); !errors.As(err, &n) || n != api.ErrLong {
+		t.Errorf("Add: %v", err)
+	}
+	if _, err := entry.Add(entry.Log{}, 1, entry.Order, nil); err != nil {
+		t.Errorf("Add: %v", err)
+	}
+	if _, err := entry.Compact(entry.Log{}, 1); !errors.As(err, &n) || n != api.ErrNone {
+		t.Errorf("Compact: %v", err)
+	}
+	if _, err := entry.Compact(entry.Log{}, 0); err != nil {
+		t.Errorf("Compact: %v", err)
+	}
+	if _, err := entry.Decode(nil); !errors.As(err, &n) || n != api.ErrForm {
+		t.Errorf("Decode of nothing: %v", err)
+	}
+	if _, err := entry.Decode(entry.Encode(entry.Entry{Index: 1, Term: 1})); err != nil {
+		t.Errorf("Decode: %v", err)
 	}
 }
