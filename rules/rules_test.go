@@ -7,6 +7,7 @@ import (
 	"testing"
 
 	"tollbar/api"
+	"tollbar/conf"
 	"tollbar/disk"
 	"tollbar/entry"
 	"tollbar/order"
@@ -348,6 +349,44 @@ func TestErrorsAsEntry(t *testing.T) {
 		t.Errorf("Decode of nothing: %v", err)
 	}
 	if _, err := entry.Decode(entry.Encode(entry.Entry{Index: 1, Term: 1})); err != nil {
+		t.Errorf("Decode: %v", err)
+	}
+}
+
+// TestErrorsAsConf: the same of members.
+func TestErrorsAsConf(t *testing.T) {
+	var n api.Errno
+	if err := conf.Check(nil); !errors.As(err, &n) || n != api.ErrArg {
+		t.Errorf("Check of none: %v", err)
+	}
+	if err := conf.Check(conf.Conf{1}); err != nil {
+		t.Errorf("Check: %v", err)
+	}
+	if _, err := conf.Add(conf.Conf{1}, 65); !errors.As(err, &n) || n != api.ErrArg {
+		t.Errorf("Add of 65: %v", err)
+	}
+	if _, err := conf.Add(conf.Conf{1}, 1); !errors.As(err, &n) || n != api.ErrTwice {
+		t.Errorf("Add of one that is there: %v", err)
+	}
+	if _, err := conf.Add(conf.Conf{1, 2, 3, 4, 5, 6, 7}, 8); !errors.As(err, &n) || n != api.ErrFull {
+		t.Errorf("Add of one too many: %v", err)
+	}
+	if _, err := conf.Add(conf.Conf{1}, 2); err != nil {
+		t.Errorf("Add: %v", err)
+	}
+	if _, err := conf.Remove(conf.Conf{1}, 2); !errors.As(err, &n) || n != api.ErrNone {
+		t.Errorf("Remove of one that is none: %v", err)
+	}
+	if _, err := conf.Remove(conf.Conf{1}, 1); !errors.As(err, &n) || n != api.ErrArg {
+		t.Errorf("Remove of the only one: %v", err)
+	}
+	if _, err := conf.Remove(conf.Conf{1, 2}, 2); err != nil {
+		t.Errorf("Remove: %v", err)
+	}
+	if _, err := conf.Decode(nil); !errors.As(err, &n) || n != api.ErrForm {
+		t.Errorf("Decode of nothing: %v", err)
+	}
+	if _, err := conf.Decode(conf.Encode(conf.Conf{1, 2})); err != nil {
 		t.Errorf("Decode: %v", err)
 	}
 }
