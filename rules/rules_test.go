@@ -10,6 +10,7 @@ import (
 	"tollbar/conf"
 	"tollbar/disk"
 	"tollbar/entry"
+	"tollbar/msg"
 	"tollbar/order"
 	"tollbar/pack"
 	"tollbar/pair"
@@ -388,5 +389,29 @@ func TestErrorsAsConf(t *testing.T) {
 	}
 	if _, err := conf.Decode(conf.Encode(conf.Conf{1, 2})); err != nil {
 		t.Errorf("Decode: %v", err)
+	}
+}
+
+// TestErrorsAsMsg: the same of a message.
+func TestErrorsAsMsg(t *testing.T) {
+	var n api.Errno
+	m := msg.Msg{Kind: msg.Vote, From: 1, To: 2, Term: 3}
+	if err := msg.Check(msg.Msg{}); !errors.As(err, &n) || n != api.ErrArg {
+		t.Errorf("Check of nothing: %v", err)
+	}
+	if err := msg.Check(m); err != nil {
+		t.Errorf("Check: %v", err)
+	}
+	if _, err := msg.Decode(nil); !errors.As(err, &n) || n != api.ErrForm {
+		t.Errorf("Decode of nothing: %v", err)
+	}
+	if _, err := msg.Decode(msg.Encode(m)); err != nil {
+		t.Errorf("Decode: %v", err)
+	}
+	if _, err := msg.Open(msg.Encode(m)); !errors.As(err, &n) || n != api.ErrForm {
+		t.Errorf("Open of what is not sealed: %v", err)
+	}
+	if _, err := msg.Open(msg.Seal(m)); err != nil {
+		t.Errorf("Open: %v", err)
 	}
 }
