@@ -7,6 +7,7 @@ import (
 	"testing"
 
 	"tollbar/api"
+	"tollbar/chunk"
 	"tollbar/conf"
 	"tollbar/disk"
 	"tollbar/entry"
@@ -413,5 +414,25 @@ func TestErrorsAsMsg(t *testing.T) {
 	}
 	if _, err := msg.Open(msg.Seal(m)); err != nil {
 		t.Errorf("Open: %v", err)
+	}
+}
+
+// TestErrorsAsChunk: the same of a text that is cut.
+func TestErrorsAsChunk(t *testing.T) {
+	var n api.Errno
+	if _, _, err := chunk.Cut(nil, 0, 0); !errors.As(err, &n) || n != api.ErrArg {
+		t.Errorf("Cut by 0: %v", err)
+	}
+	if _, _, err := chunk.Cut(nil, 1, 1); !errors.As(err, &n) || n != api.ErrRange {
+		t.Errorf("Cut beyond the end: %v", err)
+	}
+	if _, _, err := chunk.Cut(nil, 0, 1); err != nil {
+		t.Errorf("Cut: %v", err)
+	}
+	if _, err := chunk.Pieces(nil, api.MaxBytes+1); !errors.As(err, &n) || n != api.ErrArg {
+		t.Errorf("Pieces by too many: %v", err)
+	}
+	if _, err := chunk.Pieces(nil, api.MaxBytes); err != nil {
+		t.Errorf("Pieces: %v", err)
 	}
 }
