@@ -16,6 +16,7 @@ import (
 	"tollbar/pack"
 	"tollbar/pair"
 	"tollbar/quota"
+	"tollbar/raft"
 	"tollbar/seal"
 	"tollbar/session"
 	"tollbar/tape"
@@ -434,5 +435,52 @@ func TestErrorsAsChunk(t *testing.T) {
 	}
 	if _, err := chunk.Pieces(nil, api.MaxBytes); err != nil {
 		t.Errorf("Pieces: %v", err)
+	}
+}
+
+// TestErrorsAsRaft: the same of a member that shares a log.
+func TestErrorsAsRaft(t *testing.T) {
+	var n api.Errno
+	if _, err := raft.New(1, 4, raft.Stored{}, 0); !errors.As(err, &n) || n != api.ErrArg {
+		t.Errorf("New without members: %v", err)
+	}
+	c, err := raft.New(1, 4, raft.Stored{Conf: conf.Conf{1}}, 0)
+	if err != nil {
+		t.Fatalf("New: %v", err)
+	}
+	if _, _, err := c.Propose(entry.Order, nil); !errors.As(err, &n) || n != api.ErrLead {
+		t.Errorf("Propose to a follower: %v", err)
+	}
+	if _, _, _, err := c.Read(); !errors.As(err, &n) || n != api.ErrLead {
+		t.Errorf("Read of a follower: %v", err)
+	}
+	for range 4 {
+		c.Tick(0)
+	}
+	if _, _, err := c.Propose(entry.Order, make([]byte, 4097)); !errors.As(err, &n) || n != api.ErrLong {
+		t.Errorf("Propose of too much: %v", err)
+	}
+	if _, _, err := c.Propose(entry.Order, nil); err != nil {
+		t.Errorf("Propose: %v", err)
+	}
+	if _, _, _, err := c.Read(); err != nil {
+		t.Errorf("Read: %v", err)
+	}
+	if err := c.Compact(3, nil); !errors.As(err, &n) || n != api.ErrRange {
+		t.Errorf("Compact of what is not committed: %v", err)
+	}
+	if err := c.Compact(2, nil); err != nil {
+		t.Errorf("Compact: %v", err)
+	}
+	if err := c.Compact(1, nil); !errors.As(err, &n) || n != api.ErrOld {
+		t.Errorf("Compact of what was let go: %v", err)
+	}
+	c, _ = raft.New(1, 4, raft.Stored{Conf: conf.Conf{1, 2}}, 0)
+	for range 4 {
+		c.Tick(0)
+	}
+	c.Step(msg.Msg{Kind: msg.Voted, From: 2, To: 1, Term: 1, OK: true}, 0)
+	if _, _, _, err := c.Read(); !errors.As(err, &n) || n != api.ErrWait {
+		t.Errorf("Read while nothing is committed: %v", err)
 	}
 }
