@@ -17,6 +17,7 @@ import (
 	"tollbar/pair"
 	"tollbar/quota"
 	"tollbar/raft"
+	"tollbar/read"
 	"tollbar/seal"
 	"tollbar/session"
 	"tollbar/tape"
@@ -482,5 +483,27 @@ func TestErrorsAsRaft(t *testing.T) {
 	c.Step(msg.Msg{Kind: msg.Voted, From: 2, To: 1, Term: 1, OK: true}, 0)
 	if _, _, _, err := c.Read(); !errors.As(err, &n) || n != api.ErrWait {
 		t.Errorf("Read while nothing is committed: %v", err)
+	}
+}
+
+// TestErrorsAsRead: the same of reads that wait.
+func TestErrorsAsRead(t *testing.T) {
+	var n api.Errno
+	q := read.Queue{Limit: 1}
+	if err := read.Check(read.Queue{}); !errors.As(err, &n) || n != api.ErrArg {
+		t.Errorf("Check of no limit: %v", err)
+	}
+	if err := read.Check(q); err != nil {
+		t.Errorf("Check: %v", err)
+	}
+	if _, err := read.Add(q, read.Item{Term: -1}); !errors.As(err, &n) || n != api.ErrArg {
+		t.Errorf("Add of a term below 0: %v", err)
+	}
+	q, err := read.Add(q, read.Item{Term: 1})
+	if err != nil {
+		t.Errorf("Add: %v", err)
+	}
+	if _, err := read.Add(q, read.Item{Term: 1}); !errors.As(err, &n) || n != api.ErrBusy {
+		t.Errorf("Add of one too many: %v", err)
 	}
 }
