@@ -20,6 +20,7 @@ import (
 	"tollbar/read"
 	"tollbar/seal"
 	"tollbar/session"
+	"tollbar/stable"
 	"tollbar/tape"
 )
 
@@ -505,5 +506,52 @@ func TestErrorsAsRead(t *testing.T) {
 	}
 	if _, err := read.Add(q, read.Item{Term: 1}); !errors.As(err, &n) || n != api.ErrBusy {
 		t.Errorf("Add of one too many: %v", err)
+	}
+}
+
+// TestErrorsAsStable: the same of what a member keeps.
+func TestErrorsAsStable(t *testing.T) {
+	var n api.Errno
+	if _, err := stable.Open(nil, conf.Conf{1}); !errors.As(err, &n) || n != api.ErrArg {
+		t.Errorf("Open of no disk: %v", err)
+	}
+	d, err := disk.New(200)
+	if err != nil {
+		t.Fatalf("New: %v", err)
+	}
+	k, err := stable.Open(d, conf.Conf{1})
+	if err != nil {
+		t.Fatalf("Open: %v", err)
+	}
+	if err := k.Save(raft.Stored{}); !errors.As(err, &n) || n != api.ErrArg {
+		t.Errorf("Save of nothing: %v", err)
+	}
+	if err := k.Save(raft.Stored{Conf: conf.Conf{1}, Snap: make([]byte, 200)}); !errors.As(err, &n) || n != api.ErrFull {
+		t.Errorf("Save of more than there is room for: %v", err)
+	}
+	if err := k.Save(raft.Stored{Term: 1, Conf: conf.Conf{1}}); err != nil {
+		t.Errorf("Save: %v", err)
+	}
+	if err := (*stable.Keeper)(nil).Save(k.Load()); !errors.As(err, &n) || n != api.ErrArg {
+		t.Errorf("Save by no keeper: %v", err)
+	}
+	if _, _, err := stable.Decode(nil); !errors.As(err, &n) || n != api.ErrForm {
+		t.Errorf("Decode of nothing: %v", err)
+	}
+	if _, _, err := stable.Decode(stable.Encode(1, k.Load())); err != nil {
+		t.Errorf("Decode: %v", err)
+	}
+	if err := d.Arm(0); err != nil {
+		t.Errorf("Arm: %v", err)
+	}
+	if err := k.Save(raft.Stored{Conf: conf.Conf{1}}); !errors.As(err, &n) || n != api.ErrDown {
+		t.Errorf("Save, the power going: %v", err)
+	}
+	d.Start(nil)
+	if err := d.Write(0, []byte{2}); err != nil {
+		t.Errorf("Write: %v", err)
+	}
+	if _, err := stable.Open(d, conf.Conf{1}); !errors.As(err, &n) || n != api.ErrHalt {
+		t.Errorf("Open, a mark being 2: %v", err)
 	}
 }
