@@ -8,6 +8,7 @@ import (
 
 	"tollbar/api"
 	"tollbar/chunk"
+	"tollbar/client"
 	"tollbar/conf"
 	"tollbar/disk"
 	"tollbar/entry"
@@ -553,5 +554,42 @@ func TestErrorsAsStable(t *testing.T) {
 	}
 	if _, err := stable.Open(d, conf.Conf{1}); !errors.As(err, &n) || n != api.ErrHalt {
 		t.Errorf("Open, a mark being 2: %v", err)
+	}
+}
+
+// TestErrorsAsClient: the same of a client.
+func TestErrorsAsClient(t *testing.T) {
+	var n api.Errno
+	if _, err := client.New(0, []int{1}); !errors.As(err, &n) || n != api.ErrArg {
+		t.Errorf("New of the number 0: %v", err)
+	}
+	c, err := client.New(1, []int{1})
+	if err != nil {
+		t.Fatalf("New: %v", err)
+	}
+	if _, err := client.Ask(c, order.Order{}); !errors.As(err, &n) || n != api.ErrGone {
+		t.Errorf("Ask without a session: %v", err)
+	}
+	if c, err = client.Open(c); err != nil {
+		t.Errorf("Open: %v", err)
+	}
+	if _, err := client.Open(c); !errors.As(err, &n) || n != api.ErrBusy {
+		t.Errorf("Open of one that is busy: %v", err)
+	}
+	c, _ = client.Hear(c, client.Answer{Client: 1, Number: 1, Reply: session.Reply{Session: 2}})
+	if _, err := client.Ask(c, order.Order{}); err != nil {
+		t.Errorf("Ask: %v", err)
+	}
+	if _, err := client.Decode(nil); !errors.As(err, &n) || n != api.ErrForm {
+		t.Errorf("Decode of nothing: %v", err)
+	}
+	if _, err := client.Decode(client.Encode(client.Request{})); err != nil {
+		t.Errorf("Decode: %v", err)
+	}
+	if _, err := client.DecodeAnswer(nil); !errors.As(err, &n) || n != api.ErrForm {
+		t.Errorf("DecodeAnswer of nothing: %v", err)
+	}
+	if _, err := client.DecodeAnswer(client.EncodeAnswer(client.Answer{})); err != nil {
+		t.Errorf("DecodeAnswer: %v", err)
 	}
 }
