@@ -20,6 +20,7 @@ import (
 	"tollbar/raft"
 	"tollbar/read"
 	"tollbar/seal"
+	"tollbar/server"
 	"tollbar/session"
 	"tollbar/stable"
 	"tollbar/tape"
@@ -591,5 +592,49 @@ func TestErrorsAsClient(t *testing.T) {
 	}
 	if _, err := client.DecodeAnswer(client.EncodeAnswer(client.Answer{})); err != nil {
 		t.Errorf("DecodeAnswer: %v", err)
+	}
+}
+
+// TestErrorsAsServer: the same of a member.
+func TestErrorsAsServer(t *testing.T) {
+	var n api.Errno
+	if _, err := server.Open(nil, server.Config{}, 0); !errors.As(err, &n) || n != api.ErrArg {
+		t.Errorf("Open of nothing: %v", err)
+	}
+	d, err := disk.New(4000)
+	if err != nil {
+		t.Fatalf("New: %v", err)
+	}
+	s, err := server.Open(d, server.Config{ID: 1, Span: 2, First: conf.Conf{1}, Most: 6, Wait: 8}, 0)
+	if err != nil {
+		t.Fatalf("Open: %v", err)
+	}
+	if _, err := s.Hear(nil, 0); !errors.As(err, &n) || n != api.ErrForm {
+		t.Errorf("Hear of no frame: %v", err)
+	}
+	if _, err := s.Change(conf.Conf{1, 2}); !errors.As(err, &n) || n != api.ErrLead {
+		t.Errorf("Change by a follower: %v", err)
+	}
+	if _, err := s.Entry(1); !errors.As(err, &n) || n != api.ErrNone {
+		t.Errorf("Entry: %v", err)
+	}
+	if o, err := s.Ask(client.Request{}); err != nil || len(o.Answers) != 1 || api.Errno(o.Answers[0].Err) != api.ErrLead {
+		t.Errorf("Ask of a follower: %v, %v", o, err)
+	}
+	if _, err := s.Tick(0); err != nil || s.Dead() != nil {
+		t.Errorf("Tick: %v, %v", err, s.Dead())
+	}
+	if err := d.Arm(0); err != nil {
+		t.Errorf("Arm: %v", err)
+	}
+	if _, err := s.Tick(0); !errors.As(err, &n) || n != api.ErrDown {
+		t.Errorf("Tick, the power going: %v", err)
+	}
+	d.Start(nil)
+	if err := s.Dead(); !errors.As(err, &n) || n != api.ErrDown {
+		t.Errorf("Dead: %v", err)
+	}
+	if err := (*server.Server)(nil).Dead(); !errors.As(err, &n) || n != api.ErrArg {
+		t.Errorf("Dead of no member: %v", err)
 	}
 }
